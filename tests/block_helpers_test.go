@@ -125,17 +125,7 @@ func legalTexts(most int) []string {
 // anyTexts returns all texts of at most some letters, those of the events and
 // one of none.
 func anyTexts(most int) []string {
-	texts := []string{""}
-	for start, n := 0, 0; n < most; n++ {
-		end := len(texts)
-		for _, text := range texts[start:end] {
-			for _, letter := range "aceflorx" {
-				texts = append(texts, text+string(letter))
-			}
-		}
-		start = end
-	}
-	return texts
+	return allTexts(most, "aceflorx")
 }
 
 // longText returns a random text of n events that can be done from a block on.

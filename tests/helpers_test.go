@@ -33,6 +33,21 @@ func allLists(most int, top int) [][]int {
 	return all
 }
 
+// allTexts returns all texts of at most some letters out of an alphabet.
+func allTexts(most int, alphabet string) []string {
+	texts := []string{""}
+	for start, n := 0, 0; n < most; n++ {
+		end := len(texts)
+		for _, text := range texts[start:end] {
+			for _, letter := range alphabet {
+				texts = append(texts, text+string(letter))
+			}
+		}
+		start = end
+	}
+	return texts
+}
+
 func allCodes() [][]int {
 	return allLists(5, 6)
 }
